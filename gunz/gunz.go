@@ -1,0 +1,114 @@
+// Package gunz: packed data, read and written: see DOC.md.
+package gunz
+
+import (
+	"errors"
+
+	"gunz/checksum"
+	"gunz/packed"
+)
+
+// Errno is what a call answers: OK or the reason for a refusal.
+type Errno int
+
+const (
+	OK        Errno = 0
+	ErrLong   Errno = 1  // data above their bound
+	ErrShort  Errno = 2  // data end too early
+	ErrBlock  Errno = 3  // no such kind of block
+	ErrStored Errno = 4  // a length that does not agree with itself
+	ErrCode   Errno = 5  // lengths that make no code
+	ErrSymbol Errno = 6  // bits that are no symbol
+	ErrFar    Errno = 7  // a distance beyond the beginning
+	ErrLimit  Errno = 8  // more than may be put out
+	ErrHead   Errno = 9  // a member's head that is wrong
+	ErrSum    Errno = 10 // a check sum that is wrong
+	ErrRange  Errno = 11 // a number out of its range
+	ErrEnded  Errno = 12 // nothing more is read
+)
+
+// Member is a part of a gzip text.
+type Member struct {
+	Name    string
+	Comment string
+	Extra   string
+	Time    int
+	Data    string
+}
+
+// Decoder reads packed data in pieces. Make it by New.
+type Decoder struct {
+	made int
+}
+
+const (
+	maxData = 4000 // bytes of packed data
+	maxOut  = 6000 // bytes put out
+)
+
+// Sum answers the check sum (P3).
+func Sum(data string) int { return int(checksum.Of(data)) }
+
+// Inflate reads packed data (P4).
+func Inflate(data string, limit int) (string, int, Errno) {
+	if len(data) > maxData {
+		return "", 0, ErrLong
+	}
+	if limit < 0 || limit > maxOut {
+		return "", 0, ErrRange
+	}
+	reader := packed.NewReader(limit)
+	if err := reader.Read(data); err != nil {
+		return "", 0, toldAs(err)
+	}
+	return reader.Out(), reader.Begun(), OK
+}
+
+// toldAs answers by which number an error of packed data is told.
+func toldAs(err error) Errno {
+	var short *packed.Short
+	switch {
+	case errors.As(err, &short):
+		return ErrShort
+	case errors.Is(err, packed.ErrBlock):
+		return ErrBlock
+	case errors.Is(err, packed.ErrStored):
+		return ErrStored
+	case errors.Is(err, packed.ErrCode):
+		return ErrCode
+	case errors.Is(err, packed.ErrSymbol):
+		return ErrSymbol
+	case errors.Is(err, packed.ErrFar):
+		return ErrFar
+	}
+	return ErrLimit
+}
+
+// The calls from here on answer zero values until they are built.
+
+// Deflate writes packed data (P10 to P12).
+func Deflate(plain string, kind int) (string, Errno) { return "", OK }
+
+// Unzip reads a gzip text (P13).
+func Unzip(data string, limit int) ([]Member, Errno) { return nil, OK }
+
+// Zip writes a gzip text (P14).
+func Zip(members []Member, kind int) (string, Errno) { return "", OK }
+
+// New makes a decoder (P5).
+func New(cache int) *Decoder { return &Decoder{} }
+
+// Begin puts a decoder to the beginning of packed data (P5).
+func (d *Decoder) Begin(limit int) Errno { return OK }
+
+// Feed reads a piece (P6).
+func (d *Decoder) Feed(piece string) (string, Errno) { return "", OK }
+
+// End tells how the data ended (P7).
+func (d *Decoder) End() (int, Errno) { return 0, OK }
+
+// Made tells how many tables were made (P9).
+func (d *Decoder) Made() int { return d.made }
+
+// Drop gives all tables up (P9).
+func (d *Decoder) Drop() {}
