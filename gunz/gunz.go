@@ -36,14 +36,10 @@ type Member struct {
 	Data    string
 }
 
-// Decoder reads packed data in pieces. Make it by New.
-type Decoder struct {
-	made int
-}
-
 const (
-	maxData = 4000 // bytes of packed data
-	maxOut  = 6000 // bytes put out
+	maxData  = 4000 // bytes of packed data
+	maxOut   = 6000 // bytes put out
+	maxCache = 16   // tables that a decoder keeps
 )
 
 // Sum answers the check sum (P3).
@@ -54,20 +50,25 @@ func Inflate(data string, limit int) (string, int, Errno) {
 	if len(data) > maxData {
 		return "", 0, ErrLong
 	}
-	if limit < 0 || limit > maxOut {
+	if !mayPutOut(limit) {
 		return "", 0, ErrRange
 	}
-	reader := packed.NewReader(limit)
-	if err := reader.Read(data); err != nil {
+	reader := packed.NewReader(limit, packed.NewTables(0))
+	out, err := reader.Read(data)
+	if err != nil {
 		return "", 0, toldAs(err)
 	}
-	return reader.Out(), reader.Begun(), OK
+	return out, reader.Begun(), OK
 }
+
+func mayPutOut(limit int) bool { return limit >= 0 && limit <= maxOut }
 
 // toldAs answers by which number an error of packed data is told.
 func toldAs(err error) Errno {
 	var short *packed.Short
 	switch {
+	case err == nil:
+		return OK
 	case errors.As(err, &short):
 		return ErrShort
 	case errors.Is(err, packed.ErrBlock):
@@ -94,21 +95,3 @@ func Unzip(data string, limit int) ([]Member, Errno) { return nil, OK }
 
 // Zip writes a gzip text (P14).
 func Zip(members []Member, kind int) (string, Errno) { return "", OK }
-
-// New makes a decoder (P5).
-func New(cache int) *Decoder { return &Decoder{} }
-
-// Begin puts a decoder to the beginning of packed data (P5).
-func (d *Decoder) Begin(limit int) Errno { return OK }
-
-// Feed reads a piece (P6).
-func (d *Decoder) Feed(piece string) (string, Errno) { return "", OK }
-
-// End tells how the data ended (P7).
-func (d *Decoder) End() (int, Errno) { return 0, OK }
-
-// Made tells how many tables were made (P9).
-func (d *Decoder) Made() int { return d.made }
-
-// Drop gives all tables up (P9).
-func (d *Decoder) Drop() {}

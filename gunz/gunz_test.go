@@ -76,14 +76,26 @@ func TestEveryCallEnds(t *testing.T) {
 			gunz.Unzip(text, n)
 			gunz.Zip([]gunz.Member{{Name: text, Comment: text, Extra: text, Time: n, Data: text}}, n)
 			gunz.Zip(nil, n)
-			d := gunz.New(n)
-			d.Feed(text)
-			d.End()
-			d.Begin(n)
-			d.Feed(text)
-			d.End()
-			d.Made()
+			checkDecoderEnds(t, text, n)
+		}
+	}
+}
+
+func checkDecoderEnds(t *testing.T, text string, n int) {
+	t.Helper()
+	d := gunz.New(n)
+	d.Drop()
+	for _, limit := range []int{n, 6000, n} {
+		d.Begin(limit)
+		for _, piece := range []string{text, "", text} {
+			if out, errno := d.Feed(piece); (errno == gunz.ErrLong || errno == gunz.ErrEnded) && out != "" {
+				t.Errorf("P1: Feed(%.40q): %q beside %d", piece, out, errno)
+			}
+			if begun, errno := d.End(); errno != gunz.OK && begun != 0 {
+				t.Errorf("P1: End(): %d beside %d", begun, errno)
+			}
 			d.Drop()
+			d.Made()
 		}
 	}
 }
@@ -96,10 +108,16 @@ func TestAnswersHangOnArguments(t *testing.T) {
 		begun int
 		errno gunz.Errno
 		sum   int
+		fed   string
+		met   gunz.Errno
+		made  int
 	}
 	ask := func(text string) answer {
 		out, begun, errno := gunz.Inflate(text, 6000)
-		return answer{out, begun, errno, gunz.Sum(text)}
+		d := gunz.New(2)
+		d.Begin(6000)
+		fed, met := d.Feed(text)
+		return answer{out, begun, errno, gunz.Sum(text), fed, met, d.Made()}
 	}
 	r := rand.New(rand.NewSource(6))
 	list := texts(r)

@@ -82,6 +82,7 @@ func (r *Reader) head() error {
 }
 
 func (r *Reader) endBlock() {
+	r.table = nil
 	r.place = atHead
 	if r.last {
 		r.place = atEnd
@@ -90,7 +91,7 @@ func (r *Reader) endBlock() {
 
 func (r *Reader) sizes() error {
 	r.begin = r.at
-	r.at = 8 * r.Begun()
+	r.at = 8 * bytesBegun(r.at)
 	size := r.number(16)
 	if r.number(16) != 65535-size {
 		return &Fault{"a block of kind 0", ErrStored}
@@ -134,7 +135,7 @@ func (r *Reader) codes() error {
 	if err := lengths.check(); err != nil {
 		return err
 	}
-	r.table = makeTable(lengths)
+	r.table = r.tables.ask(lengths)
 	r.place = atSymbols
 	return nil
 }

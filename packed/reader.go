@@ -1,7 +1,10 @@
 // Package packed reads packed data, step by step.
 package packed
 
-import "strconv"
+import (
+	"slices"
+	"strconv"
+)
 
 // place is what a reader stands ahead of.
 type place int
@@ -17,42 +20,55 @@ const (
 
 // Reader reads packed data that come in pieces. Make it by NewReader.
 type Reader struct {
-	data  []byte // all pieces so far
-	at    int    // the bit that is taken next
-	begin int    // the first bit of the step at hand
-	limit int
-	out   []byte
-	place place
-	last  bool   // the block at hand is the last one
-	left  int    // bytes of kind 0 that are still to come
-	table *table // what symbols are read by
+	data   []byte // the pieces so far, but for the bytes that were passed
+	passed int    // bytes that no step needs any more
+	at     int    // the bit of data that is taken next
+	begin  int    // the first bit of the step at hand
+	limit  int
+	out    []byte
+	place  place
+	last   bool   // the block at hand is the last one
+	left   int    // bytes of kind 0 that are still to come
+	table  *table // what the symbols of the block at hand are read by
+	tables *Tables
 }
 
 // NewReader makes a reader at the beginning of packed data that puts out at
-// most limit bytes.
-func NewReader(limit int) *Reader {
-	return &Reader{limit: limit}
+// most limit bytes, and asks tables for those of the blocks of kind 2.
+func NewReader(limit int, tables *Tables) *Reader {
+	return &Reader{limit: limit, tables: tables}
 }
 
-// Read takes a piece and makes all the steps that can be made. It answers nil
-// if the last block has ended. Where the error wraps a Short, the reader goes
-// on with the next piece.
-func (r *Reader) Read(piece string) error {
+// Read takes a piece, makes all the steps that can be made, and answers what
+// they put out. There is no error if the last block has ended. Where the error
+// wraps a Short, the reader goes on with the next piece.
+func (r *Reader) Read(piece string) (string, error) {
 	r.data = append(r.data, piece...)
-	if err := r.steps(); err != nil {
-		return &Fault{"the step from bit " + strconv.Itoa(r.begin), err}
+	ahead := len(r.out)
+	err := r.steps()
+	if err != nil {
+		err = &Fault{"the step from bit " + strconv.Itoa(8*r.passed+r.begin), err}
 	}
-	return nil
+	r.pass()
+	return string(r.out[ahead:]), err
 }
 
-// Out answers what was put out so far.
-func (r *Reader) Out() string {
-	return string(r.out)
+// pass lets go of the bytes that were taken whole.
+func (r *Reader) pass() {
+	whole := r.at / 8
+	r.data = slices.Delete(r.data, 0, whole)
+	r.passed += whole
+	r.at -= 8 * whole
 }
 
 // Begun answers how many bytes were begun by the steps so far.
 func (r *Reader) Begun() int {
-	return (r.at + 7) / 8
+	return r.passed + bytesBegun(r.at)
+}
+
+// bytesBegun answers how many bytes so many bits begin.
+func bytesBegun(bits int) int {
+	return (bits + 7) / 8
 }
 
 // steps makes steps until the last block has ended. A step takes all its bits
@@ -82,7 +98,7 @@ func (r *Reader) steps() (err error) {
 // bit takes a bit, and gives up where there is none.
 func (r *Reader) bit() int {
 	if r.at >= 8*len(r.data) {
-		panic(&Short{Have: 8 * len(r.data)})
+		panic(&Short{Have: 8 * (r.passed + len(r.data))})
 	}
 	bit := r.data[r.at/8] >> (r.at % 8) & 1
 	r.at++
