@@ -39,7 +39,9 @@ type Member struct {
 const (
 	maxData  = 4000 // bytes of packed data
 	maxOut   = 6000 // bytes put out
+	maxPlain = 1500 // bytes to be packed
 	maxCache = 16   // tables that a decoder keeps
+	lastKind = 2    // of the blocks that are written
 )
 
 // Sum answers the check sum (P3).
@@ -85,10 +87,18 @@ func toldAs(err error) Errno {
 	return ErrLimit
 }
 
-// The calls from here on answer zero values until they are built.
-
 // Deflate writes packed data (P10 to P12).
-func Deflate(plain string, kind int) (string, Errno) { return "", OK }
+func Deflate(plain string, kind int) (string, Errno) {
+	if kind < 0 || kind > lastKind {
+		return "", ErrRange
+	}
+	if len(plain) > maxPlain {
+		return "", ErrLong
+	}
+	return packed.Pack(plain, kind), OK
+}
+
+// The calls from here on answer zero values until they are built.
 
 // Unzip reads a gzip text (P13).
 func Unzip(data string, limit int) ([]Member, Errno) { return nil, OK }

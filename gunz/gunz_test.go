@@ -72,7 +72,9 @@ func TestEveryCallEnds(t *testing.T) {
 			if errno != gunz.OK && (out != "" || begun != 0) {
 				t.Errorf("P1: Inflate(%.40q, %d): %q, %d beside %d", text, n, out, begun, errno)
 			}
-			gunz.Deflate(text, n)
+			if out, errno := gunz.Deflate(text, n); errno != gunz.OK && out != "" {
+				t.Errorf("P1: Deflate(%.40q, %d): %q beside %d", text, n, out, errno)
+			}
 			gunz.Unzip(text, n)
 			gunz.Zip([]gunz.Member{{Name: text, Comment: text, Extra: text, Time: n, Data: text}}, n)
 			gunz.Zip(nil, n)
@@ -111,13 +113,18 @@ func TestAnswersHangOnArguments(t *testing.T) {
 		fed   string
 		met   gunz.Errno
 		made  int
+		packs [3]string
 	}
 	ask := func(text string) answer {
 		out, begun, errno := gunz.Inflate(text, 6000)
 		d := gunz.New(2)
 		d.Begin(6000)
 		fed, met := d.Feed(text)
-		return answer{out, begun, errno, gunz.Sum(text), fed, met, d.Made()}
+		var packs [3]string
+		for kind := range packs {
+			packs[kind], _ = gunz.Deflate(text, kind)
+		}
+		return answer{out, begun, errno, gunz.Sum(text), fed, met, d.Made(), packs}
 	}
 	r := rand.New(rand.NewSource(6))
 	list := texts(r)

@@ -162,7 +162,7 @@ func (r *Reader) toldLengths(telling *code, count int) ([]uint8, error) {
 			return nil, err
 		}
 		length, times := r.run(symbol)
-		if symbol == 16 {
+		if symbol == sameAgain {
 			if len(told) == 0 {
 				return nil, &Fault{"the first length", ErrCode}
 			}
@@ -181,15 +181,12 @@ func (r *Reader) toldLengths(telling *code, count int) ([]uint8, error) {
 // run takes the bits behind a symbol that tells lengths, and answers which
 // length it tells (for 16, which hangs on the one before: 0) and how often.
 func (r *Reader) run(symbol int) (uint8, int) {
-	switch symbol {
-	case 16:
-		return 0, r.number(2) + 3
-	case 17:
-		return 0, r.number(3) + 3
-	case 18:
-		return 0, r.number(7) + 11
+	bits, least := behindTelling(symbol)
+	times := r.number(bits) + least
+	if symbol >= sameAgain {
+		return 0, times
 	}
-	return uint8(symbol), 1
+	return uint8(symbol), times
 }
 
 func (r *Reader) symbols() error {

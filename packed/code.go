@@ -101,6 +101,26 @@ func makeCode(lengths []uint8) code {
 	return c
 }
 
+// word is a symbol's code, as a number whose highest bit comes first.
+type word struct {
+	bits   int
+	length int
+}
+
+// wordsOf answers the codes of all symbols; that of one without a code has
+// length 0.
+func wordsOf(lengths []uint8) []word {
+	words := make([]word, len(lengths))
+	next := word{}
+	for _, symbol := range makeCode(lengths).symbols {
+		longer := int(lengths[symbol]) - next.length
+		next = word{next.bits << longer, next.length + longer}
+		words[symbol] = next
+		next.bits++
+	}
+	return words
+}
+
 // table is what a block of kind 1 or 2 is read by.
 type table struct {
 	symbols   code

@@ -1,4 +1,4 @@
-// Package packed reads packed data, step by step.
+// Package packed reads packed data, step by step, and writes them.
 package packed
 
 import (
