@@ -5,6 +5,7 @@ import (
 	"errors"
 
 	"gunz/checksum"
+	"gunz/gziptext"
 	"gunz/packed"
 )
 
@@ -42,6 +43,7 @@ const (
 	maxPlain = 1500 // bytes to be packed
 	maxCache = 16   // tables that a decoder keeps
 	lastKind = 2    // of the blocks that are written
+	maxTime  = 4294967295
 )
 
 // Sum answers the check sum (P3).
@@ -49,11 +51,8 @@ func Sum(data string) int { return int(checksum.Of(data)) }
 
 // Inflate reads packed data (P4).
 func Inflate(data string, limit int) (string, int, Errno) {
-	if len(data) > maxData {
-		return "", 0, ErrLong
-	}
-	if !mayPutOut(limit) {
-		return "", 0, ErrRange
+	if refused := mayRead(data, limit); refused != OK {
+		return "", 0, refused
 	}
 	reader := packed.NewReader(limit, packed.NewTables(0))
 	out, err := reader.Read(data)
@@ -63,9 +62,20 @@ func Inflate(data string, limit int) (string, int, Errno) {
 	return out, reader.Begun(), OK
 }
 
+// mayRead answers what is wrong with data and limit ahead of being read.
+func mayRead(data string, limit int) Errno {
+	if len(data) > maxData {
+		return ErrLong
+	}
+	if !mayPutOut(limit) {
+		return ErrRange
+	}
+	return OK
+}
+
 func mayPutOut(limit int) bool { return limit >= 0 && limit <= maxOut }
 
-// toldAs answers by which number an error of packed data is told.
+// toldAs answers by which number an error of the other packages is told.
 func toldAs(err error) Errno {
 	var short *packed.Short
 	switch {
@@ -83,13 +93,17 @@ func toldAs(err error) Errno {
 		return ErrSymbol
 	case errors.Is(err, packed.ErrFar):
 		return ErrFar
+	case errors.Is(err, gziptext.ErrHead):
+		return ErrHead
+	case errors.Is(err, gziptext.ErrSum):
+		return ErrSum
 	}
 	return ErrLimit
 }
 
 // Deflate writes packed data (P10 to P12).
 func Deflate(plain string, kind int) (string, Errno) {
-	if kind < 0 || kind > lastKind {
+	if !isKind(kind) {
 		return "", ErrRange
 	}
 	if len(plain) > maxPlain {
@@ -98,10 +112,4 @@ func Deflate(plain string, kind int) (string, Errno) {
 	return packed.Pack(plain, kind), OK
 }
 
-// The calls from here on answer zero values until they are built.
-
-// Unzip reads a gzip text (P13).
-func Unzip(data string, limit int) ([]Member, Errno) { return nil, OK }
-
-// Zip writes a gzip text (P14).
-func Zip(members []Member, kind int) (string, Errno) { return "", OK }
+func isKind(kind int) bool { return kind >= 0 && kind <= lastKind }

@@ -1,6 +1,7 @@
 package gunz_test
 
 import (
+	"fmt"
 	"hash/crc32"
 	"math"
 	"math/rand"
@@ -56,6 +57,10 @@ func texts(r *rand.Rand) []string {
 		if len(noise) > 0 && r.Intn(2) == 0 {
 			noise[0] = noise[0]&^6 | 4 // a block of kind 2
 		}
+		if len(noise) > 3 && r.Intn(3) == 0 {
+			noise = append([]byte(plainHead), noise...)
+			noise[3] = byte(r.Intn(32))
+		}
 		list = append(list, string(noise))
 	}
 	return list
@@ -75,10 +80,23 @@ func TestEveryCallEnds(t *testing.T) {
 			if out, errno := gunz.Deflate(text, n); errno != gunz.OK && out != "" {
 				t.Errorf("P1: Deflate(%.40q, %d): %q beside %d", text, n, out, errno)
 			}
-			gunz.Unzip(text, n)
-			gunz.Zip([]gunz.Member{{Name: text, Comment: text, Extra: text, Time: n, Data: text}}, n)
-			gunz.Zip(nil, n)
+			checkMembersEnd(t, text, n)
 			checkDecoderEnds(t, text, n)
+		}
+	}
+}
+
+func checkMembersEnd(t *testing.T, text string, n int) {
+	t.Helper()
+	if members, errno := gunz.Unzip(text, n); (errno == gunz.OK) != (members != nil) {
+		t.Errorf("P1: Unzip(%.40q, %d): %v beside %d", text, n, members, errno)
+	}
+	all := gunz.Member{Name: text, Comment: text, Extra: text, Time: n, Data: text}
+	for _, members := range [][]gunz.Member{nil, {}, {all}, {{Data: text}, {Name: text}, {Comment: text}, {Extra: text}, {Time: n}}, make([]gunz.Member, min(max(n, 0), 7000))} {
+		for _, kind := range []int{n, 2} {
+			if out, errno := gunz.Zip(members, kind); (errno == gunz.OK) != (out != "") {
+				t.Errorf("P1: Zip(%.40v, %d): %q beside %d", members, kind, out, errno)
+			}
 		}
 	}
 }
@@ -114,22 +132,29 @@ func TestAnswersHangOnArguments(t *testing.T) {
 		met   gunz.Errno
 		made  int
 		packs [3]string
+		zips  [3]string
+		read  string
+		found gunz.Errno
 	}
 	ask := func(text string) answer {
 		out, begun, errno := gunz.Inflate(text, 6000)
 		d := gunz.New(2)
 		d.Begin(6000)
 		fed, met := d.Feed(text)
-		var packs [3]string
+		var packs, zips [3]string
 		for kind := range packs {
 			packs[kind], _ = gunz.Deflate(text, kind)
+			zips[kind], _ = gunz.Zip([]gunz.Member{{Data: text, Extra: text[:min(40, len(text))]}, {Time: len(text)}}, kind)
 		}
-		return answer{out, begun, errno, gunz.Sum(text), fed, met, d.Made(), packs}
+		read, found := gunz.Unzip(text, 6000)
+		return answer{out, begun, errno, gunz.Sum(text), fed, met, d.Made(), packs, zips, fmt.Sprint(read), found}
 	}
 	r := rand.New(rand.NewSource(6))
 	list := texts(r)
 	for range 100 {
 		list = append(list, packedByOther(r, randomText(r, r.Intn(500))))
+		zip, _ := zippedByOther(r, 1+r.Intn(3))
+		list = append(list, zip)
 	}
 	var copies []string
 	var answers []answer
